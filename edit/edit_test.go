@@ -27,47 +27,6 @@ func stamped(e api.Edit) api.Edit {
 
 func rule(s string) api.Rule { return sample.Rules(s)[0] }
 
-func random(dice *sample.Dice, d api.Doc) api.Edit {
-	some := func() int {
-		if dice.N(9) == 0 {
-			return 1 + dice.N(30)
-		}
-		return d.Nodes[dice.N(len(d.Nodes))].ID
-	}
-	before := func(parent int) int {
-		if k, e := tree.Kids(d.Nodes, parent); e == 0 && len(k) > 0 && dice.N(2) == 0 {
-			return k[dice.N(len(k))]
-		}
-		return 0
-	}
-	e := api.Edit{Clock: 1 + dice.N(99), Editor: 1 + dice.N(3), Kind: 1 + dice.N(8)}
-	switch e.Kind {
-	case api.EditInsert:
-		parent := some()
-		e.Node = sample.Node(50+dice.N(9), parent, 1+dice.N(11), dice.N(3), "")
-		e.Before = before(parent)
-		if e.Node.Kind == api.KindText {
-			e.Node.Text = sample.Text(dice)
-		}
-	case api.EditRemove:
-		e.ID = some()
-	case api.EditMove:
-		e.ID, e.Parent = some(), some()
-		e.Before = before(e.Parent)
-	case api.EditText:
-		e.ID, e.Text = some(), sample.Text(dice)
-	case api.EditClass:
-		e.ID, e.N = some(), dice.N(3)
-	case api.EditRule:
-		e.At, e.Rule = dice.N(len(d.Rules)+1), rule(sample.Rule(dice))
-	case api.EditDrop:
-		e.At = dice.N(len(d.Rules) + 1)
-	case api.EditAdvance:
-		e.At, e.Byte, e.N = dice.N(2), "abce"[dice.N(4)], dice.N(20)
-	}
-	return e
-}
-
 // alike compares documents as the chapter says.
 func alike(a, b api.Doc) bool {
 	sorted := func(l []api.Node) []api.Node {
@@ -204,7 +163,7 @@ func TestEditing(t *testing.T) {
 	for seed := range 1500 {
 		dice := sample.Roll(seed)
 		d := sample.Random(dice)
-		e := random(dice, d)
+		e := sample.Edit(dice, d)
 		after, no := Apply(d, e)
 		back, no2 := Undo(d, e)
 		if no != no2 {
@@ -240,7 +199,7 @@ func TestEditing(t *testing.T) {
 
 func farApart(t *testing.T, dice *sample.Dice, d api.Doc) {
 	t.Helper()
-	first, second := random(dice, d), random(dice, d)
+	first, second := sample.Edit(dice, d), sample.Edit(dice, d)
 	if first.Kind != api.EditText || second.Kind < api.EditText || second.Kind == api.EditText && second.ID == first.ID {
 		return
 	}
@@ -258,7 +217,7 @@ func TestSequences(t *testing.T) {
 		var l, made []api.Edit
 		now := clone.Doc(d)
 		for range 12 {
-			e := random(dice, now)
+			e := sample.Edit(dice, now)
 			l = append(l, e)
 			if next, no := Apply(now, e); no == 0 {
 				now, made = next, append(made, e)

@@ -128,3 +128,47 @@ func Rule(d *Dice) string {
 	}
 	return s
 }
+
+// Edit returns an edit of a document that follows from the dice; it may be one that cannot be made.
+func Edit(dice *Dice, d api.Doc) api.Edit {
+	some := func() int {
+		if dice.N(9) == 0 {
+			return 1 + dice.N(30)
+		}
+		return d.Nodes[dice.N(len(d.Nodes))].ID
+	}
+	e := api.Edit{Clock: 1 + dice.N(99), Editor: 1 + dice.N(3), Kind: 1 + dice.N(8)}
+	switch e.Kind {
+	case api.EditInsert:
+		parent := some()
+		e.Node = Node(50+dice.N(9), parent, 1+dice.N(11), dice.N(3), "")
+		e.Before = before(dice, d, parent)
+		if e.Node.Kind == api.KindText {
+			e.Node.Text = Text(dice)
+		}
+	case api.EditRemove:
+		e.ID = some()
+	case api.EditMove:
+		e.ID, e.Parent = some(), some()
+		e.Before = before(dice, d, e.Parent)
+	case api.EditText:
+		e.ID, e.Text = some(), Text(dice)
+	case api.EditClass:
+		e.ID, e.N = some(), dice.N(3)
+	case api.EditRule:
+		e.At, e.Rule = dice.N(len(d.Rules)+1), Rules(Rule(dice))[0]
+	case api.EditDrop:
+		e.At = dice.N(len(d.Rules) + 1)
+	case api.EditAdvance:
+		e.At, e.Byte, e.N = dice.N(2), "abce"[dice.N(4)], dice.N(20)
+	}
+	return e
+}
+
+// before returns a child of a node, or 0.
+func before(dice *Dice, d api.Doc, parent int) int {
+	if k, e := tree.Kids(d.Nodes, parent); e == api.OK && len(k) > 0 && dice.N(2) == 0 {
+		return k[dice.N(len(k))]
+	}
+	return 0
+}
