@@ -3,6 +3,7 @@ package journal
 import (
 	"forme/api"
 	"forme/codec"
+	"forme/intake"
 )
 
 // integers returns the integers of an edit that is well-formed.
@@ -44,59 +45,32 @@ func appendExpr(l []int, e api.Expr) []int {
 	return l
 }
 
-// reader takes integers off a list; it panics where there is none that can be there.
+// reader takes edits off a list of integers.
 type reader struct {
-	l     []int
-	at    int
+	*intake.Reader
 	exprs int
 }
 
-func (r *reader) want(ok bool) {
-	if !ok {
-		panic(api.ErrForm)
-	}
-}
-
-func (r *reader) next() int {
-	r.want(r.at < len(r.l))
-	r.at++
-	return r.l[r.at-1]
-}
-
-// upTo takes an integer from 0 to a greatest one.
-func (r *reader) upTo(most int) int {
-	n := r.next()
-	r.want(n >= 0 && n <= most)
-	return n
-}
-
-func (r *reader) text() string {
-	s, n, no := codec.Read(r.l[r.at:])
-	r.want(no == api.OK)
-	r.at += n
-	return s
-}
-
 func (r *reader) edit() api.Edit {
-	e := api.Edit{Clock: r.next(), Editor: r.next(), Kind: r.next(), ID: r.next(), Parent: r.next(), Before: r.next(), N: r.next(), At: r.next()}
-	e.Byte = byte(r.upTo(255))
-	e.Text = r.text()
-	e.Node = api.Node{ID: r.next(), Parent: r.next(), Kind: r.next(), Class: r.next()}
-	e.Node.Text = r.text()
+	e := api.Edit{Clock: r.Next(), Editor: r.Next(), Kind: r.Next(), ID: r.Next(), Parent: r.Next(), Before: r.Next(), N: r.Next(), At: r.Next()}
+	e.Byte = byte(r.UpTo(255))
+	e.Text = r.Text()
+	e.Node = api.Node{ID: r.Next(), Parent: r.Next(), Kind: r.Next(), Class: r.Next()}
+	e.Node.Text = r.Text()
 	e.Rule = r.rule()
 	return e
 }
 
 func (r *reader) rule() api.Rule {
-	x := api.Rule{Layer: r.next()}
-	for range r.upTo(api.MaxTests) {
-		x.Tests = append(x.Tests, api.Test{Kind: r.next(), Class: r.next(), ID: r.next(), Child: r.upTo(1) == 1})
+	x := api.Rule{Layer: r.Next()}
+	for range r.UpTo(api.MaxTests) {
+		x.Tests = append(x.Tests, api.Test{Kind: r.Next(), Class: r.Next(), ID: r.Next(), Child: r.UpTo(1) == 1})
 	}
-	for range r.upTo(api.MaxTerms) {
-		x.When = append(x.When, api.Term{What: r.next(), N: r.next()})
+	for range r.UpTo(api.MaxTerms) {
+		x.When = append(x.When, api.Term{What: r.Next(), N: r.Next()})
 	}
-	for range r.upTo(api.MaxDecls) {
-		prop := r.next()
+	for range r.UpTo(api.MaxDecls) {
+		prop := r.Next()
 		r.exprs = 0
 		x.Decls = append(x.Decls, api.Decl{Prop: prop, Value: r.expr(1)})
 	}
@@ -106,9 +80,9 @@ func (r *reader) rule() api.Rule {
 // expr takes an expression; the limits end it where it could not be well-formed any more.
 func (r *reader) expr(depth int) api.Expr {
 	r.exprs++
-	r.want(depth <= api.MaxDepth && r.exprs <= api.MaxExpr)
-	e := api.Expr{Op: r.next(), N: r.next()}
-	for range r.upTo(2) {
+	r.Want(depth <= api.MaxDepth && r.exprs <= api.MaxExpr)
+	e := api.Expr{Op: r.Next(), N: r.Next()}
+	for range r.UpTo(2) {
 		e.Kids = append(e.Kids, r.expr(depth+1))
 	}
 	return e

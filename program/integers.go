@@ -3,6 +3,7 @@ package program
 import (
 	"forme/api"
 	"forme/codec"
+	"forme/intake"
 )
 
 // integers returns the integers of an operation that is well-formed.
@@ -15,38 +16,14 @@ func integers(o api.Op) []int {
 	return l
 }
 
-// reader takes integers off a list; it panics where there is none that can be there.
-type reader struct {
-	l  []int
-	at int
-}
+// reader takes operations off a list of integers.
+type reader struct{ *intake.Reader }
 
-func (r *reader) want(ok bool) {
-	if !ok {
-		panic(api.ErrForm)
-	}
-}
-
-func (r *reader) next() int {
-	r.want(r.at < len(r.l))
-	r.at++
-	return r.l[r.at-1]
-}
-
-func (r *reader) run() api.Run {
-	x := r.next()
-	s, n, e := codec.Read(r.l[r.at:])
-	r.want(e == api.OK)
-	r.at += n
-	return api.Run{X: x, Text: s}
-}
-
-func (r *reader) op() api.Op {
-	o := api.Op{Page: r.next(), Y: r.next(), H: r.next()}
-	n := r.next()
-	r.want(n >= 0 && n <= mostRuns)
-	for range n {
-		o.Runs = append(o.Runs, r.run())
+func (r reader) op() api.Op {
+	o := api.Op{Page: r.Next(), Y: r.Next(), H: r.Next()}
+	for range r.UpTo(mostRuns) {
+		x := r.Next()
+		o.Runs = append(o.Runs, api.Run{X: x, Text: r.Text()})
 	}
 	return o
 }

@@ -6,6 +6,7 @@ import (
 	"iter"
 
 	"forme/api"
+	"forme/search"
 )
 
 // Advance returns the advance of a byte, and whether the font has a glyph of it.
@@ -36,19 +37,10 @@ func Pairs(shown string) iter.Seq2[byte, byte] {
 // Scaled returns a raw width at a scale, rounded up.
 func Scaled(raw, scale int) int { return (raw*scale + 99) / 100 }
 
-// find searches in a sorted list for what has the order 0.
+// find returns what has the order 0 in a sorted list.
 func find[T any](l []T, order func(x T) int) (found T, ok bool) {
-	low, high := 0, len(l)
-	for low < high {
-		mid := (low + high) / 2
-		switch o := order(l[mid]); {
-		case o == 0:
-			return l[mid], true
-		case o < 0:
-			low = mid + 1
-		default:
-			high = mid
-		}
+	if i, ok := search.Find(l, order); ok {
+		return l[i], true
 	}
 	return found, false
 }
