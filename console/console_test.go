@@ -110,6 +110,8 @@ advance 0 97 1001 => error 1
 advance 1 97 5 => error 4
 advance 0 256 5 => error 1
 advance 0 -1 5 => error 1
+advance 0 -159 5 => error 1
+advance 0 353 5 => error 1
 advance 0 126 5 => error 1
 text 2 aa => ok
 show 200 100 0 => 1 0 0 200 19; 3 2 2 196 8; 4 4 4 192 4; 2 2 10 196 7 [aa 2 10]
@@ -331,6 +333,41 @@ paper 200 20 1 0 100 0 => 2; 1
 printed => error 6
 feed 0 => error 6
 `)
+}
+
+// TestFirstDocument looks at fonts, hyphens and columns of the first document.
+func TestFirstDocument(t *testing.T) {
+	check(t, `
+insert 2 1 2 0 0 a}a ~a => ok
+insert 3 1 2 0 0 b~cd => ok
+rule 0 rule 0 * { align: 1; } => ok
+rule 1 rule 0 *#3 { most: 1; } => ok
+show 200 100 0 => 1 0 0 200 20; 2 0 0 200 10 [a}a a 150 0]; 3 0 10 200 10 [bcd 170 10]
+insert 4 1 5 0 0 => ok
+move 3 4 0 => ok
+rule 2 rule 0 grid { cols: 8; } => ok
+show 200 100 0 => 1 0 0 200 30; 2 0 0 200 10 [a}a a 150 0]; 4 0 10 200 20; 3 0 10 25 20 [b- 5 10] [cd 5 20]
+show 200 100 3 => 1 0 0 200 30; 2 0 0 200 10 [a}a a 150 0]; 4 0 10 200 20; 3 0 10 25 20 [b- 5 10] [cd 5 20]
+drop 2 => ok
+drop 1 => ok
+drop 0 => ok
+paper 407 10 2 7 100 0 => 2
+send 2 => 1
+feed 0 => ok
+print 3 => ok
+printed => 1 0 [a}a a 0] [bcd 207]
+style 1 32 200 100 0 => 0
+prove order => error 6
+`)
+	var l []string
+	for range 64 {
+		l = append(l, "class 1 3")
+	}
+	// The Clock 64 takes two bytes, and so does that of the edit that undoes the last one.
+	out := run(t, append(l[:63:63], "journal", l[63], "journal", "undo", "journal"))
+	if out[63] != "63 1953" || out[65] != "64 1985" || out[67] != "65 2017" {
+		t.Error(out[63], out[65], out[67])
+	}
 }
 
 func TestForm(t *testing.T) {

@@ -123,6 +123,11 @@ func TestRefused(t *testing.T) {
 			t.Errorf("account %d: %v", i, e)
 		}
 	}
+	for _, a := range []api.Account{{Node: 5, Last: 1000000}, {Node: 5, Last: -1000000, Charged: 1000000000, Changes: 1000000000, Frozen: true}} {
+		if _, _, _, e := Judge(good, a, height(1000000, 1000000)); e != 0 {
+			t.Error(a, e)
+		}
+	}
 	if _, _, _, e := Judge(api.Contract{Node: 5}, a, height(200, 1)); e != api.ErrArg {
 		t.Error(e)
 	}

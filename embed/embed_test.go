@@ -79,7 +79,7 @@ func TestRefused(t *testing.T) {
 		x []api.Answer
 	}{
 		{nil, nil}, {a[:1], nil}, {[]api.Account{a[1], a[0]}, nil}, {[]api.Account{a[0], {Node: 7, Charged: -1}}, nil}, {append(slices.Clone(a), a[0]), nil},
-		{a, []api.Answer{answer(7, 300, 5)}}, {a, []api.Answer{answer(3, 300, 5)}}, {a, []api.Answer{answer(2, 299, 5)}}, {a, []api.Answer{answer(2, 300, -5)}},
+		{a, []api.Answer{answer(7, 300, 5)}}, {a, []api.Answer{answer(7, 0, 5)}}, {a, []api.Answer{answer(3, 300, 5)}}, {a, []api.Answer{answer(2, 299, 5)}}, {a, []api.Answer{answer(2, 300, -5)}},
 		{a, []api.Answer{answer(2, 300, 5), answer(2, 300, 5)}}, {a, []api.Answer{{Node: 2, Width: 300}}},
 	} {
 		if boxes, accounts, e := Round(d, r, l, x.a, x.x); e != api.ErrArg || boxes != nil || accounts != nil {
@@ -100,6 +100,29 @@ func TestRefused(t *testing.T) {
 	}
 	if w, e := Seen(deep, r, high, 2); e != 0 || w != 298 {
 		t.Error(w, e)
+	}
+}
+
+func TestSeveral(t *testing.T) {
+	d := sample.Doc("rule 0 *#4 { width: 50%; }", sample.Root(), sample.Node(5, 1, api.KindPiece, 0, ""), sample.Node(4, 1, api.KindPiece, 0, ""), sample.Node(3, 1, api.KindPiece, 0, ""))
+	var l []api.Contract
+	for id := 1; id <= api.MaxPieces; id++ {
+		l = append(l, promise(id, 0, 100, append(slices.Repeat([]int{id}, 60), 10*id)...))
+	}
+	boxes, held, e := Page(d, sample.Reader(300, 100), l)
+	if e != 0 || !slices.Equal(held, []api.Held{{Node: 3, H: 30}, {Node: 4, H: 4}, {Node: 5, H: 50}}) {
+		t.Fatal(held, e)
+	}
+	if boxes[0].H != 84 || boxes[1].H != 50 || boxes[2].H != 4 || boxes[3].Y != 54 {
+		t.Error(boxes)
+	}
+	var a []api.Account
+	for id := range api.MaxPieces {
+		a = append(a, api.Account{Node: id + 1})
+	}
+	boxes, a, e = Round(d, sample.Reader(300, 100), l, a, []api.Answer{answer(3, 300, 30), answer(4, 150, 5), answer(5, 300, 49)})
+	if e != 0 || boxes[1].Cut || !boxes[2].Cut || boxes[3].Cut || a[2] != (api.Account{Node: 3}) || !a[3].Frozen || a[3].Last != 1 || a[4].Last != -1 {
+		t.Error(boxes, a, e)
 	}
 }
 

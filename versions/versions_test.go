@@ -89,10 +89,10 @@ func TestValid(t *testing.T) {
 			continue
 		}
 		_, e := Push(x.l, doc(1))
-		_, _, e2 := Hold(x.l)
+		_, n, e2 := Hold(x.l)
 		_, e3 := Let(x.l, 1)
 		_, e4 := Doc(x.l, 1)
-		if e != api.ErrArg || e2 != api.ErrArg || e3 != api.ErrArg || e4 != api.ErrArg {
+		if e != api.ErrArg || e2 != api.ErrArg || n != 0 || e3 != api.ErrArg || e4 != api.ErrArg {
 			t.Errorf("case %d: %v, %v, %v, %v", i, e, e2, e3, e4)
 		}
 	}
