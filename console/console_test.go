@@ -127,6 +127,7 @@ journal => 3 99
 undo => error 6
 rules => none
 show 200 100 0 => 1 0 0 200 10; 3 0 0 200 0; 2 0 0 200 10 [a  b 0 0]; 4 0 0 200 0
+cut 99 => 3
 cut 98 => 2
 journal => 2 68
 cut 0 => 0
@@ -359,7 +360,29 @@ printed => 1 0 [a}a a 0] [bcd 207]
 style 1 32 200 100 0 => 0
 prove order => error 6
 `)
+	check(t, `
+rule 0 rule 0 * { pad: 5; above: 5; } => ok
+zones 0 100 100 200 200 => 1
+knob 0 0 1 1 2 2 3 3 => ok
+knob 0 1 1 1 2 2 3 3 => ok
+repair above 1 0 => none
+drop 0 => ok
+repair above 1 0 => error 1
+`)
+	check(t, `
+rule 0 rule 0 * { pad: 5; above: 5; } => ok
+knob 0 0 1 1 => ok
+knob 0 1 1 1 2 2 3 3 1 1 2 2 3 3 1 1 2 2 => ok
+repair order => error 2
+`)
 	var l []string
+	for id := range 65 {
+		l = append(l, "contract "+numbers(id+1, 0, 5))
+	}
+	if out := run(t, l); out[63] != "ok" || out[64] != "error 1" {
+		t.Error(out)
+	}
+	l = nil
 	for range 64 {
 		l = append(l, "class 1 3")
 	}

@@ -3,6 +3,7 @@ package refs
 import (
 	"reflect"
 	"slices"
+	"strconv"
 	"strings"
 	"testing"
 
@@ -154,5 +155,29 @@ func TestTrue(t *testing.T) {
 	}
 	if printed < 150 {
 		t.Error("too few documents are printed", printed)
+	}
+}
+
+// steps returns a document with so many references, one of which becomes longer in each round, so that one more of the nodes that they are about comes to the second page.
+func steps(n int) (api.Doc, api.Paper) {
+	d := sample.Doc("", sample.Root())
+	d.Fonts[0].Glyphs['2'-32].Advance = 1000
+	for i := range n {
+		to := strings.ReplaceAll("@N@ @N@", "N", strconv.Itoa(100+i))
+		d.Nodes = append(d.Nodes, sample.Node(10+i, 1, api.KindText, 0, to))
+	}
+	for i := range n {
+		d.Nodes = append(d.Nodes, sample.Node(100+n-1-i, 1, api.KindText, 0, "d"))
+	}
+	return d, paper(20*n - 10)
+}
+
+func TestRounds(t *testing.T) {
+	for n, want := range map[int]api.Errno{2: 0, 3: 0, 7: 0, 8: api.ErrCycle, 12: api.ErrCycle} {
+		d, p := steps(n)
+		l, e := Print(d, p)
+		if e != want || e == 0 && len(l) != 2 || e != 0 && l != nil {
+			t.Error(n, len(l), e)
+		}
 	}
 }
