@@ -82,6 +82,11 @@ func TestRefusedArguments(t *testing.T) {
 			t.Error(prop, e)
 		}
 	}
+	nothing := First()
+	nothing[0] = 1
+	if _, e := Style(d, 1, reader(200), nothing, 0, 0); e != api.ErrArg {
+		t.Error(e)
+	}
 	for width, want := range map[int]api.Errno{-1: api.ErrArg, 0: 0, 1000000: 0, 1000001: api.ErrArg} {
 		if _, e := Style(d, 1, reader(200), First(), width, -1); e != want {
 			t.Error(width, e)

@@ -74,3 +74,18 @@ func TestOrder(t *testing.T) {
 		t.Error(e)
 	}
 }
+
+// TestMostCells builds a map of just as many cells as there may be, and of one more.
+func TestMostCells(t *testing.T) {
+	d := sample.Doc("", sample.Root())
+	var z []api.Zone
+	for i := range 261 {
+		z = append(z, sample.Zone(0, 50, 300, 200+2*i, 200+2*i))
+	}
+	for scales, want := range map[int]api.Errno{25: 0, 26: api.ErrLimit} {
+		m, e := Build(d, append(z, sample.Zone(1, 50, 49+scales, 200, 200)))
+		if e != want || e == 0 && (len(m.Cells) != api.MaxCells || !Valid(m)) || e != 0 && m.Zones != nil {
+			t.Error(scales, len(m.Cells), e)
+		}
+	}
+}

@@ -131,3 +131,30 @@ func fitting(t *testing.T, n int) api.Edit {
 	t.Fatal("no edit has", n, "bytes")
 	return e
 }
+
+// sized returns an expression with so many nodes.
+func sized(n int) api.Expr {
+	switch {
+	case n == 1:
+		return api.Expr{Op: api.OpNumber}
+	case n%2 == 0:
+		return api.Expr{Op: api.OpTimes, Kids: []api.Expr{sized(n - 1)}}
+	}
+	return api.Expr{Op: api.OpSum, Kids: []api.Expr{sized(n / 2), sized(n - 1 - n/2)}}
+}
+
+// TestMostIntegers puts an edit with as many integers as there may be, and one with three more.
+func TestMostIntegers(t *testing.T) {
+	r := api.Rule{Tests: make([]api.Test, 2)}
+	for range 39 {
+		r.Decls = append(r.Decls, api.Decl{Prop: 1, Value: sized(33)})
+	}
+	for n, want := range map[int]api.Errno{24: 0, 25: api.ErrLimit} {
+		e := api.Edit{Clock: 1, Editor: 1, Kind: api.EditRule, Rule: r}
+		e.Rule.Decls = append(slices.Clone(r.Decls), api.Decl{Prop: 1, Value: sized(n)})
+		l, no := Put(e)
+		if no != want || no == 0 && len(l) != api.MaxInts {
+			t.Error(n, len(l), no)
+		}
+	}
+}

@@ -100,3 +100,43 @@ func TestMany(t *testing.T) {
 		}
 	}
 }
+
+// TestFirstError looks at what is too far down before a table whose columns do not fit.
+func TestFirstError(t *testing.T) {
+	for _, kind := range []int{api.KindPiece, api.KindFloat} {
+		d := sample.Doc("rule 0 cell { pad: 5000; }", sample.Root(), n(2, 1, api.KindPiece, ""), n(3, 1, kind, ""))
+		if kind == api.KindFloat {
+			d.Nodes = append(d.Nodes, n(4, 3, api.KindPiece, ""))
+		}
+		d.Nodes = append(d.Nodes, n(5, 1, api.KindTable, ""), n(6, 5, api.KindTr, ""), n(7, 6, api.KindCell, ""))
+		for h, want := range map[int]api.Errno{400000: api.ErrFit, 400001: api.ErrRange} {
+			if _, e := Lay(d, sample.Reader(200, 100), []api.Held{{Node: 2, H: 600000}, {Node: 3, H: h}, {Node: 4, H: h}}); e != want {
+				t.Error(kind, h, e)
+			}
+		}
+	}
+}
+
+// TestFonts looks at which nodes need a font, and what of it.
+func TestFonts(t *testing.T) {
+	without := func(b byte) api.Font {
+		f := sample.Font()
+		f.Glyphs = append(f.Glyphs[:b-32:b-32], f.Glyphs[b-31:]...)
+		return f
+	}
+	for i, x := range []struct {
+		rules, text string
+		f           api.Font
+		want        api.Errno
+	}{
+		{"", "a~b", sample.Font(), 0}, {"", "a~b", without('b'), api.ErrGlyph}, {"", "a~b", without('-'), api.ErrGlyph}, {"", "ab", without('-'), 0}, {"", "~ab", without('-'), 0}, {"rule 0 text { hide: 1; }", "a~b", without('b'), 0},
+		{"rule 0 block { font: 7; } rule 0 text { font: 0; }", "a~b", sample.Font(), 0}, {"rule 0 block { font: 1; }", "a~b", sample.Font(), api.ErrGlyph}, {"rule 0 text { font: 1; }", "", sample.Font(), api.ErrGlyph},
+		{"rule 0 text { font: 1; hide: 1; }", "", sample.Font(), 0},
+	} {
+		d := sample.Doc(x.rules, sample.Root(), n(2, 1, api.KindText, x.text))
+		d.Fonts[0] = x.f
+		if _, e := Lay(d, sample.Reader(200, 100), nil); e != x.want {
+			t.Errorf("case %d: %v", i, e)
+		}
+	}
+}

@@ -27,6 +27,9 @@ func TestEdges(t *testing.T) {
 			t.Errorf("bad paper %d: %v", i, e)
 		}
 	}
+	if l, e := Break(paper(200, 9, 1, 0), nil, nil); e != 0 || len(l) != 0 {
+		t.Error(l, e)
+	}
 	for i, x := range []struct {
 		s    api.Slice
 		keep []bool
@@ -72,6 +75,10 @@ func TestColumns(t *testing.T) {
 		// Heads with the notes of the band below them.
 		{paper(200, 20, 1, 0), []api.Slice{head, body(1, 10, 10), body(2, 20, 12), note(3, 20, 5)}, [][4]int{{1, 7, 0, 0}, {1, 1, 0, 10}, {2, 7, 0, 0}, {2, 2, 0, 3}, {2, 3, 0, 15}}},
 		{paper(200, 20, 1, 0), []api.Slice{head, body(1, 10, 10), body(2, 20, 13), note(3, 20, 5)}, [][4]int{{1, 7, 0, 0}, {1, 1, 0, 10}, {2, 2, 0, 0}, {2, 3, 0, 15}}},
+		// Notes that are higher than the paper, without bands.
+		{paper(200, 9, 1, 0), []api.Slice{note(1, 3, 5), note(2, 3, 5)}, [][4]int{{1, 1, 0, 0}, {1, 2, 0, 5}}},
+		// A head of no table is no head of a band of no table.
+		{paper(200, 20, 1, 0), []api.Slice{{Node: 7, H: 3, Head: true}, slice(1, 10, 10), slice(2, 20, 12)}, [][4]int{{1, 7, 0, 0}, {1, 1, 0, 10}, {2, 2, 0, 0}}},
 		// A band of no table, and of another one, has no heads.
 		{paper(200, 20, 1, 0), []api.Slice{head, body(1, 10, 10), slice(2, 20, 12)}, [][4]int{{1, 7, 0, 0}, {1, 1, 0, 10}, {2, 2, 0, 0}}},
 		{paper(200, 20, 1, 0), []api.Slice{head, body(1, 10, 10), {Node: 2, Table: 8, Y: 20, H: 12}}, [][4]int{{1, 7, 0, 0}, {1, 1, 0, 10}, {2, 2, 0, 0}}},

@@ -54,3 +54,30 @@ func TestErrorsOfReaders(t *testing.T) {
 		t.Error(l, e)
 	}
 }
+
+// TestMostCases proves a claim with just as many cases as there may be, and with one more.
+func TestMostCases(t *testing.T) {
+	var z []api.Zone
+	for i := range 261 {
+		z = append(z, sample.Zone(0, 50, 300, 200+3*i, 200+3*i))
+	}
+	z = append(z, sample.Zone(1, 50, 73, 200, 200), sample.Zone(2, 50, 50, 200, 201))
+	n := api.MaxCells + 1
+	for h, want := range map[int]api.Errno{5: 0, 6: api.ErrLimit} {
+		pages, errors := make([][]api.Box, n), make([]api.Errno, n)
+		for i := range pages {
+			pages[i] = []api.Box{{Node: 1, H: 5}}
+		}
+		pages[n-1][0].H = h
+		m, e := cells.Make(z, pages, errors)
+		if e != 0 || len(m.Cells) != api.MaxCells {
+			t.Fatal(len(m.Cells), e)
+		}
+		c := parse(t, "above 1 5")
+		l, _, refuted, e := Prove(m, c)
+		_, e2 := Check(m, c, l)
+		if e != want || e2 != want || refuted || e == 0 && len(l) != api.MaxCells || e != 0 && l != nil {
+			t.Error(h, len(l), refuted, e, e2)
+		}
+	}
+}
