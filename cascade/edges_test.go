@@ -96,3 +96,63 @@ func TestRefusedArguments(t *testing.T) {
 		t.Error(e)
 	}
 }
+
+// mayBe returns the least and the greatest value of a property, as the chapter lists them.
+func mayBe(prop int) (low, high int) {
+	switch prop {
+	case 0:
+		return 0, 0
+	case api.PropMarginTop, api.PropMarginBottom, api.PropTop, api.PropLeft:
+		return -100000, 100000
+	case api.PropSide, api.PropAlign:
+		return 0, 2
+	case api.PropFont:
+		return 0, 7
+	case api.PropCols, api.PropSpan:
+		return 1, 64
+	case api.PropDir, api.PropKeep, api.PropBox, api.PropHead, api.PropHide:
+		return 0, 1
+	}
+	if prop >= api.PropVar {
+		return -1000000, 1000000
+	}
+	return 0, 100000
+}
+
+func TestEveryCut(t *testing.T) {
+	number := func(n int) api.Expr { return api.Expr{Op: api.OpNumber, N: n} }
+	for prop := 1; prop <= api.Props; prop++ {
+		low, high := mayBe(prop)
+		for _, v := range []int{-2000000, low - 2, low - 1, low, low + 1, high - 1, high, high + 1, high + 2, 2000000} {
+			want := min(max(v, low), high)
+			if low == 0 && high == 1 && v != 0 {
+				want = 1
+			}
+			sum := api.Expr{Op: api.OpSum, Kids: []api.Expr{number(v / 2), number(v - v/2)}}
+			d := sample.Doc("", sample.Root())
+			d.Rules = []api.Rule{{Tests: []api.Test{{}}, Decls: []api.Decl{{Prop: prop, Value: sum}}}}
+			s := style(t, d, 1, reader(200), First(), 0, -1)
+			if s[prop] != want {
+				t.Errorf("property %d: %d is cut to %d, want %d", prop, v, s[prop], want)
+			}
+			s[prop] = First()[prop]
+			if s != First() {
+				t.Errorf("property %d: %d decides others, too", prop, v)
+			}
+		}
+	}
+}
+
+func TestEveryParent(t *testing.T) {
+	d := sample.Doc("", sample.Root())
+	for prop := range First() {
+		low, high := mayBe(prop)
+		for v, want := range map[int]api.Errno{low - 1: api.ErrArg, low: 0, high: 0, high + 1: api.ErrArg} {
+			parent := First()
+			parent[prop] = v
+			if _, e := Style(d, 1, reader(200), parent, 0, -1); e != want {
+				t.Errorf("property %d of the parent is %d: %v, want %v", prop, v, e, want)
+			}
+		}
+	}
+}

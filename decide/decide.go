@@ -18,6 +18,46 @@ type Sheet struct {
 	cuts    [api.Props + 1]func(v int) int
 }
 
+// span has the least and the greatest value of a property.
+type span struct{ low, high int }
+
+// spans has the values of each property that may be.
+var spans = [api.Props + 1]span{
+	0:                    {0, 0},
+	api.PropMarginTop:    {-100000, 100000},
+	api.PropMarginBottom: {-100000, 100000},
+	api.PropPad:          {0, 100000},
+	api.PropWidth:        {0, 100000},
+	api.PropMin:          {0, 100000},
+	api.PropMax:          {0, 100000},
+	api.PropSide:         {0, 2},
+	api.PropFont:         {0, api.MaxFonts - 1},
+	api.PropLine:         {0, 100000},
+	api.PropAlign:        {0, 2},
+	api.PropDir:          {0, 1},
+	api.PropGrow:         {0, 100000},
+	api.PropBasis:        {0, 100000},
+	api.PropCols:         {1, api.MaxTracks},
+	api.PropSpan:         {1, api.MaxTracks},
+	api.PropGap:          {0, 100000},
+	api.PropKeep:         {0, 1},
+	api.PropTop:          {-100000, 100000},
+	api.PropLeft:         {-100000, 100000},
+	api.PropCut:          {0, 100000},
+	api.PropBox:          {0, 1},
+	api.PropSticky:       {0, 100000},
+	api.PropHead:         {0, 1},
+	api.PropHide:         {0, 1},
+	api.PropVar:          {-1000000, 1000000},
+	api.PropVar + 1:      {-1000000, 1000000},
+	api.PropVar + 2:      {-1000000, 1000000},
+	api.PropVar + 3:      {-1000000, 1000000},
+	api.PropVar + 4:      {-1000000, 1000000},
+	api.PropVar + 5:      {-1000000, 1000000},
+	api.PropVar + 6:      {-1000000, 1000000},
+	api.Props:            {-1000000, 1000000},
+}
+
 // rank has what makes a rule stronger than another one, the most important thing first.
 type rank [3]int
 
@@ -179,30 +219,20 @@ func inherited(prop int) bool {
 
 // cuts returns what cuts the value of each property.
 func cuts() [api.Props + 1]func(v int) int {
-	between := func(low, high int) func(v int) int {
-		return func(v int) int { return min(max(v, low), high) }
-	}
-	flag := func(v int) int {
-		if v != 0 {
-			return 1
-		}
-		return 0
-	}
-	place, choice, span, variable := between(-100000, 100000), between(0, 2), between(1, api.MaxTracks), between(-1000000, 1000000)
-	l := [api.Props + 1]func(v int) int{
-		0:                 between(0, 0),
-		api.PropMarginTop: place, api.PropMarginBottom: place, api.PropTop: place, api.PropLeft: place,
-		api.PropSide: choice, api.PropAlign: choice, api.PropFont: between(0, api.MaxFonts-1),
-		api.PropCols: span, api.PropSpan: span,
-		api.PropDir: flag, api.PropKeep: flag, api.PropBox: flag, api.PropHead: flag, api.PropHide: flag,
-	}
-	for prop := range l {
-		switch {
-		case prop >= api.PropVar:
-			l[prop] = variable
-		case l[prop] == nil:
-			l[prop] = between(0, 100000)
+	var l [api.Props + 1]func(v int) int
+	for prop, s := range spans {
+		l[prop] = func(v int) int { return min(max(v, s.low), s.high) }
+		if s == (span{0, 1}) {
+			l[prop] = flag
 		}
 	}
 	return l
+}
+
+// flag cuts what is 0 or 1: numbers below 0 become 1, too, although 0 is nearer.
+func flag(v int) int {
+	if v != 0 {
+		return 1
+	}
+	return 0
 }
